@@ -744,6 +744,10 @@ func hunkByForm(text string) (impl.Hunk, int) {
 		if line == nil {
 			return impl.Hunk{}, 0
 		}
+		// A mark that has not even a line feed behind it has no line there.
+		if len(line[1]) == 1 && line[2] != "" {
+			return impl.Hunk{}, 0
+		}
 		read += len(line[0])
 		counts[line[1][0]]++
 		if line[2] == "" {
@@ -888,7 +892,19 @@ func TestParsePatch(t *testing.T) {
 		{"a backslash line cut", good + "\\", impl.ErrText, 1},
 		{"a backslash line with more in it", good + "\\ x\n", impl.ErrText, 1},
 		{"a backslash line with more in it, within", "@@ -0,1 +0,1 @@\n-a\n\\x\n+b\n", impl.ErrText, 0},
-		{"a backslash line behind a mark alone", "@@ -0,0 +0,1 @@\n+\n\\\n", impl.ErrForm, 0},
+		{"a backslash line behind a mark alone", "@@ -0,0 +0,1 @@\n+\n\\\n", impl.ErrText, 0},
+		{"a backslash line behind a - alone", "@@ -0,1 +0,0 @@\n-\n\\\n", impl.ErrText, 0},
+		{"a backslash line behind a blank alone", "@@ -0,1 +0,1 @@\n \n\\\n", impl.ErrText, 0},
+		{"a backslash line behind a blank alone, then a change", "@@ -0,1 +0,2 @@\n \n\\\n+a\n", impl.ErrText, 0},
+		{"a backslash line behind a mark alone, in the second line", "@@ -0,0 +0,2 @@\n+a\n+\n\\\n", impl.ErrText, 0},
+		{"a backslash line behind a mark alone, in the second hunk", good + "@@ -0,0 +1,1 @@\n+\n\\\n", impl.ErrText, 1},
+		{"a backslash line behind a mark alone, in the third hunk", good + "@@ -0,0 +1,1 @@\n+a\n@@ -0,0 +2,1 @@\n+\n\\\n" + good, impl.ErrText, 2},
+		{"a backslash line behind a mark alone, then what is no hunk", "@@ -1,0 +1,1 @@\n+\n\\\n@@ -2,1 +2,1 @@\n a\n\n", impl.ErrText, 0},
+		{"a backslash line behind a mark alone, ahead of a wrong place", "@@ -9999,0 +0,1 @@\n+\n\\\n", impl.ErrText, 0},
+		{"a line feed alone behind a mark", "@@ -0,0 +0,1 @@\n+\n", impl.OK, 0},
+		{"a mark behind a mark, and a backslash line", "@@ -0,0 +0,1 @@\n++\n\\\n", impl.OK, 0},
+		{"a byte 0 behind a mark, and a backslash line", "@@ -0,0 +0,1 @@\n+\x00\n\\\n", impl.OK, 0},
+		{"a backslash behind a mark, and a backslash line", "@@ -0,0 +0,1 @@\n+\\\n\\\n", impl.OK, 0},
 		{"a line without mark", "@@ -0,0 +0,1 @@\na\n", impl.ErrText, 0},
 		{"an empty line", "@@ -0,0 +0,1 @@\n\n", impl.ErrText, 0},
 		{"a carriage return ahead of the line feed", "@@ -0,0 +0,1 @@\r\n+a\r\n", impl.ErrText, 0},
@@ -910,6 +926,9 @@ func TestParsePatch(t *testing.T) {
 			t.Errorf("%s: ParsePatch = %#v, want %d, At %d", c.name, r, c.code, c.at)
 		}
 		checkParse(t, c.text)
+	}
+	if r := impl.ParsePatch("@@ -0,0 +0,1 @@\n+\n"); !sameHunks(r.Hunks, []impl.Hunk{hunkOf(0, 0, "+\n")}) {
+		t.Errorf("a mark with a line feed behind it: ParsePatch = %#v", r)
 	}
 }
 
